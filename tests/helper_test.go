@@ -3,6 +3,7 @@ package tests
 import (
 	"fmt"
 	"math"
+	"slices"
 	"strings"
 	"testing"
 
@@ -214,5 +215,20 @@ func sameCode(t *testing.T, what string, got int64, want int64) {
 	t.Helper()
 	if got != want {
 		t.Errorf("%s: code %d, not %d", what, got, want)
+	}
+}
+
+// checkAndSpoil checks results in order, and overwrites each one behind its check, with the spare
+// memory behind it, so that lists that share memory are found.
+func checkAndSpoil(t *testing.T, lists [][]int64, want [][]int64) {
+	t.Helper()
+	for i, list := range lists {
+		if !slices.Equal(list, want[i]) {
+			t.Errorf("list %d is %v, not %v", i, list, want[i])
+		}
+		whole := list[:cap(list)]
+		for j := range whole {
+			whole[j] = 99
+		}
 	}
 }

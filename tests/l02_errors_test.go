@@ -182,15 +182,7 @@ func TestGroupResultsAreNew(t *testing.T) {
 			{2, 2, -2, 2}, {-2, 2, -2, -2}, {2, 2, -2, 2, 2, 2, -2, 2}, {-2, 2, -2, -2, -1, 2, 2, 2, -2, 2, -2, 1}, {-1, 2, -2, 1},
 			{2, 0, 1}, {2, 2, -2, 2}, {2, 0, 1}, {1, 1, -1, 1}, {1, 2, -2, 2}, {2, 1, -1, 1}, {1, 1, -1, 1}, {1, 2, -2, 2}, {2, 1, -1, 1},
 		}
-		for i, list := range lists {
-			if !slices.Equal(list, want[i]) {
-				t.Errorf("list %d is %v, not %v", i, list, want[i])
-			}
-			whole := list[:cap(list)]
-			for j := range whole {
-				whole[j] = 99
-			}
-		}
+		checkAndSpoil(t, lists, want)
 	}
 	if !slices.Equal(g, []int64{2, 2, -2, 2}) || !slices.Equal(h, []int64{-2, 1}) {
 		t.Errorf("arguments became %v, %v", g, h)
