@@ -143,10 +143,16 @@ func (t tower) machineBy(g []int64) (impl.Machine, int64) {
 			nexts[i] = append(nexts[i], places[fmt.Sprint(t.normalBy(sectionBy(t.machine, word, w)))])
 		}
 	}
+	return machineFrom(t.machine.Letters, outs, nexts, 0)
+}
+
+// machineFrom is the document's queue of the sets of places that no word tells apart, from the set of one
+// place on. Places have the letters that they put out, and the places to which they go on.
+func machineFrom(letters int64, outs []string, nexts [][]int, first int) (impl.Machine, int64) {
 	different := differentPlaces(outs, nexts)
 	same := func(i, j int) bool { return !different[i][j] }
-	result := impl.Machine{Letters: t.machine.Letters}
-	states := []int{0}
+	result := impl.Machine{Letters: letters}
+	states := []int{first}
 	for q := 0; q < len(states); q++ {
 		if q == impl.MaxStates {
 			return impl.Machine{}, impl.ErrLimit
@@ -174,11 +180,14 @@ func differentPlaces(outs []string, nexts [][]int) [][]bool {
 		changed = false
 		for i := range outs {
 			for j := range outs {
+				if different[i][j] {
+					continue
+				}
 				apart := outs[i] != outs[j]
 				for x := range nexts[i] {
 					apart = apart || different[nexts[i][x]][nexts[j][x]]
 				}
-				if apart && !different[i][j] {
+				if apart {
 					different[i][j], changed = true, true
 				}
 			}
